@@ -8,7 +8,6 @@ import (
 	"strings"
 	"testing"
 	"unicode/utf8"
-	"unsafe"
 
 	"bracken/api"
 )
@@ -360,32 +359,7 @@ func TestNothingPanics(t *testing.T) {
 	}
 }
 
-// P2
-
-// shares reports whether two strings have bytes of memory in common.
-func shares(a, b string) bool {
-	if a == "" || b == "" {
-		return false
-	}
-	first := uintptr(unsafe.Pointer(unsafe.StringData(a)))
-	second := uintptr(unsafe.Pointer(unsafe.StringData(b)))
-	return first < second+uintptr(len(b)) && second < first+uintptr(len(a))
-}
-
-func TestResultsAreNew(t *testing.T) {
-	for length := 1; length <= 16; length++ {
-		s := strings.Repeat("a", length)
-		u, _ := Text(s)
-		if shares(s, u) {
-			t.Errorf("Text(%q) shares memory with its argument", s)
-		}
-		whole := u + "tail"
-		v, _, _ := ReadText(whole)
-		if v != s || shares(v, whole) {
-			t.Errorf("ReadText(%q) = %q, which may share memory with its argument", whole, v)
-		}
-	}
-}
+// P2 (package rules tests that results share no memory with arguments)
 
 func TestResultsDependOnArgumentsOnly(t *testing.T) {
 	type result struct {

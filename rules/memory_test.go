@@ -1,0 +1,117 @@
+// Package rules tests the general rules of the document that concern every package alike. It has tests only.
+package rules
+
+import (
+	"reflect"
+	"strings"
+	"testing"
+	"unsafe"
+
+	"bracken/api"
+	"bracken/frame"
+	"bracken/prim"
+)
+
+// span is a range of memory.
+type span struct {
+	first, end uintptr
+}
+
+// spans returns the memory that the strings and slices inside v occupy, with the unused capacity of slices.
+func spans(v reflect.Value) []span {
+	var all []span
+	switch v.Kind() {
+	case reflect.String:
+		if s := v.String(); s != "" {
+			first := uintptr(unsafe.Pointer(unsafe.StringData(s)))
+			all = append(all, span{first, first + uintptr(len(s))})
+		}
+	case reflect.Slice:
+		if size := uintptr(v.Cap()) * v.Type().Elem().Size(); size > 0 {
+			all = append(all, span{v.Pointer(), v.Pointer() + size})
+		}
+		for i := range v.Len() {
+			all = append(all, spans(v.Index(i))...)
+		}
+	case reflect.Struct:
+		for i := range v.NumField() {
+			all = append(all, spans(v.Field(i))...)
+		}
+	}
+	return all
+}
+
+// shares reports whether two values have memory in common.
+func shares(a, b any) bool {
+	for _, x := range spans(reflect.ValueOf(a)) {
+		for _, y := range spans(reflect.ValueOf(b)) {
+			if x.first < y.end && y.first < x.end {
+				return true
+			}
+		}
+	}
+	return false
+}
+
+// The tests below say nothing if shares does not find what is shared.
+func TestSharesFinds(t *testing.T) {
+	s := strings.Repeat("abc", 3)
+	list := make([]string, 1, 4)
+	for i, pair := range [][2]any{
+		{s, s}, {s, s[4:]}, {s[:5], s[4:]},
+		{api.Frame{Payload: s[2:4]}, s},
+		{api.State{Jobs: []api.Job{{Tag: s}}}, s[8:]},
+		{list, list[1:3]},
+	} {
+		if !shares(pair[0], pair[1]) {
+			t.Errorf("pair %d shares memory", i)
+		}
+	}
+	for i, pair := range [][2]any{
+		{s, strings.Clone(s)}, {s[:4], s[4:]}, {"", s}, {s[:0], s},
+		{api.Frame{Payload: s}, api.Frame{Payload: strings.Clone(s)}},
+		{list[0:1:1], list[1:]},
+	} {
+		if shares(pair[0], pair[1]) {
+			t.Errorf("pair %d shares no memory", i)
+		}
+	}
+}
+
+// texts holds strings of all lengths that a text may have.
+func texts() []string {
+	var all []string
+	for length := range api.MaxText + 1 {
+		all = append(all, strings.Repeat("a", length))
+	}
+	return all
+}
+
+// P2
+
+func TestPrimResultsAreNew(t *testing.T) {
+	for _, s := range texts() {
+		b, _ := prim.Text(s)
+		if shares(s, b) {
+			t.Errorf("Text(%q) shares memory with its argument", s)
+		}
+		whole := b + "tail"
+		if u, _, e := prim.ReadText(whole); u != s || e != api.OK || shares(u, whole) {
+			t.Errorf("ReadText(%q) = %q, %d, which may share memory with its argument", whole, u, e)
+		}
+	}
+}
+
+func TestFrameResultsAreNew(t *testing.T) {
+	for _, payload := range append(texts(), strings.Repeat("p", api.MaxPayload)) {
+		f := api.Frame{Version: 2, Kind: api.KDelta, Payload: payload}
+		s, e := frame.Encode(f)
+		if e != api.OK || shares(s, f) {
+			t.Errorf("Encode of %d bytes: error %d, or it shares memory with its argument", len(payload), e)
+		}
+		whole := s + "tail"
+		if g, _, e := frame.Decode(whole); g != f || e != api.OK || shares(g, whole) {
+			t.Errorf("Decode of %d bytes: error %d, or it shares memory with its argument", len(payload), e)
+		}
+	}
+}
