@@ -8,6 +8,7 @@ import (
 	"unsafe"
 
 	"bracken/api"
+	"bracken/feed"
 	"bracken/frame"
 	"bracken/prim"
 )
@@ -112,6 +113,39 @@ func TestFrameResultsAreNew(t *testing.T) {
 		whole := s + "tail"
 		if g, _, e := frame.Decode(whole); g != f || e != api.OK || shares(g, whole) {
 			t.Errorf("Decode of %d bytes: error %d, or it shares memory with its argument", len(payload), e)
+		}
+	}
+}
+
+func TestFeedResultsAreNew(t *testing.T) {
+	for _, payload := range append(texts()[1:], strings.Repeat("p", api.MaxPayload)) {
+		s, e := frame.Encode(api.Frame{Version: 1, Kind: api.KState, Payload: payload})
+		if e != api.OK {
+			t.Fatal(e)
+		}
+		f := feed.New()
+		stream := strings.Repeat(s, 5)
+		var earlier [][]api.Frame
+		// Ends inside a frame, at its end, and inside the next one but one.
+		for _, piece := range []string{stream[:3], stream[3:5], stream[5 : len(s)+7], stream[len(s)+7 : 2*len(s)], stream[2*len(s):], s + s[:4]} {
+			frames, e := f.Push(piece)
+			if e != api.OK || shares(frames, piece) || shares(*f, piece) || shares(*f, frames) {
+				t.Errorf("Push of %d bytes: error %d, or memory is shared", len(piece), e)
+			}
+			for i := range frames {
+				if shares(frames[i], frames[:i]) {
+					t.Errorf("frame %d shares memory with one before it", i)
+				}
+			}
+			for _, other := range earlier {
+				if shares(frames, other) {
+					t.Error("a result shares memory with one before it")
+				}
+			}
+			earlier = append(earlier, frames)
+		}
+		if f.Left() != 4 || f.At() != 6*len(s) {
+			t.Errorf("Left and At are %d and %d", f.Left(), f.At())
 		}
 	}
 }
