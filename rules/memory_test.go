@@ -11,6 +11,7 @@ import (
 	"bracken/feed"
 	"bracken/frame"
 	"bracken/prim"
+	"bracken/wire"
 )
 
 // span is a range of memory.
@@ -146,6 +147,56 @@ func TestFeedResultsAreNew(t *testing.T) {
 		}
 		if f.Left() != 4 || f.At() != 6*len(s) {
 			t.Errorf("Left and At are %d and %d", f.Left(), f.At())
+		}
+	}
+}
+
+// states holds states whose texts have all lengths, with leases and without them.
+func states() []api.State {
+	all := []api.State{{}, {Rev: 5}}
+	for _, s := range texts()[1:] {
+		all = append(all, api.State{
+			Jobs:   []api.Job{{Name: s, Tag: s}, {Name: "b", Tag: s}},
+			Nodes:  []api.Node{{Name: s, Zone: s}, {Name: "b", Zone: s}},
+			Leases: []api.Lease{{Job: s, Node: s, Until: 3}, {Job: "b", Node: s}},
+		})
+	}
+	return all
+}
+
+// sharesInside reports whether two strings or slices inside v have memory in common.
+func sharesInside(v any) bool {
+	all := spans(reflect.ValueOf(v))
+	for i, x := range all {
+		for _, y := range all[:i] {
+			if x.first < y.end && y.first < x.end {
+				return true
+			}
+		}
+	}
+	return false
+}
+
+func TestWireResultsAreNew(t *testing.T) {
+	s := strings.Repeat("abc", 3)
+	if !sharesInside(api.Node{Name: s, Zone: s[1:2]}) || sharesInside(api.Node{Name: s[:3], Zone: s[3:]}) {
+		t.Fatal("sharesInside does not find what is shared")
+	}
+	for i, s := range states() {
+		b, e := wire.Encode(s, 3)
+		if e != api.OK || shares(b, s) {
+			t.Errorf("Encode of state %d: error %d, or it shares memory with its argument", i, e)
+		}
+		f, e := wire.Frame(s, 3)
+		if e != api.OK || shares(f, s) {
+			t.Errorf("Frame of state %d: error %d, or it shares memory with its argument", i, e)
+		}
+		d, e := wire.Decode(b, 3)
+		if e != api.OK || shares(d, b) || sharesInside(d) {
+			t.Errorf("Decode of state %d: error %d, or memory is shared", i, e)
+		}
+		if again, _ := wire.Decode(b, 3); shares(d, again) {
+			t.Errorf("Decode of state %d shares memory with the result before it", i)
 		}
 	}
 }
