@@ -11,6 +11,7 @@ import (
 	"bracken/feed"
 	"bracken/frame"
 	"bracken/prim"
+	"bracken/up"
 	"bracken/wire"
 )
 
@@ -197,6 +198,30 @@ func TestWireResultsAreNew(t *testing.T) {
 		}
 		if again, _ := wire.Decode(b, 3); shares(d, again) {
 			t.Errorf("Decode of state %d shares memory with the result before it", i)
+		}
+	}
+}
+
+func TestUpResultsAreNew(t *testing.T) {
+	for i, s := range states() {
+		for to := 1; to <= api.MaxVersion; to++ {
+			d, _, e := up.Down(s, to)
+			if e != api.OK || shares(d, s) || sharesInside(d) {
+				t.Errorf("Down of state %d to %d: error %d, or memory is shared", i, to, e)
+			}
+			for version := to; version <= api.MaxVersion; version++ {
+				u, e := up.State(d, to, version)
+				if e != api.OK || shares(u, d) || sharesInside(u) {
+					t.Errorf("State of state %d from %d to %d: error %d, or memory is shared", i, to, version, e)
+				}
+				if again, _ := up.State(d, to, version); shares(u, again) {
+					t.Errorf("State of state %d from %d to %d shares memory with the result before it", i, to, version)
+				}
+				b, _ := wire.Encode(d, to)
+				if c, e := up.Bytes(b, to, version); e != api.OK || shares(b, c) {
+					t.Errorf("Bytes of state %d from %d to %d: error %d, or memory is shared", i, to, version, e)
+				}
+			}
 		}
 	}
 }
