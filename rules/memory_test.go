@@ -10,6 +10,7 @@ import (
 	"bracken/api"
 	"bracken/feed"
 	"bracken/frame"
+	"bracken/json"
 	"bracken/prim"
 	"bracken/up"
 	"bracken/wire"
@@ -222,6 +223,27 @@ func TestUpResultsAreNew(t *testing.T) {
 					t.Errorf("Bytes of state %d from %d to %d: error %d, or memory is shared", i, to, version, e)
 				}
 			}
+		}
+	}
+}
+
+func TestJSONResultsAreNew(t *testing.T) {
+	for _, s := range append(texts(), "\n", `"`) {
+		if shares(json.Quote(s), s) {
+			t.Errorf("Quote(%q) shares memory with its argument", s)
+		}
+	}
+	for i, s := range append(states(), api.State{Jobs: []api.Job{{Name: "\x01", Tag: "\x01"}, {Name: `"`, Tag: "\x01"}}}) {
+		form, e := json.Print(s)
+		if e != api.OK || shares(form, s) {
+			t.Errorf("Print of state %d: error %d, or it shares memory with its argument", i, e)
+		}
+		p, e := json.Parse(form)
+		if e != api.OK || shares(p, form) || sharesInside(p) {
+			t.Errorf("Parse of state %d: error %d, or memory is shared", i, e)
+		}
+		if again, _ := json.Parse(form); shares(p, again) {
+			t.Errorf("Parse of state %d shares memory with the result before it", i)
 		}
 	}
 }
