@@ -8,10 +8,12 @@ import (
 	"unsafe"
 
 	"bracken/api"
+	"bracken/delta"
 	"bracken/feed"
 	"bracken/frame"
 	"bracken/json"
 	"bracken/prim"
+	"bracken/state"
 	"bracken/up"
 	"bracken/wire"
 )
@@ -244,6 +246,48 @@ func TestJSONResultsAreNew(t *testing.T) {
 		}
 		if again, _ := json.Parse(form); shares(p, again) {
 			t.Errorf("Parse of state %d shares memory with the result before it", i)
+		}
+	}
+}
+
+func TestDeltaResultsAreNew(t *testing.T) {
+	all := states()
+	for i, a := range all {
+		for k, b := range all {
+			a.Rev, b.Rev = 3, 7
+			d, e := delta.Diff(a, b)
+			if e != api.OK || shares(d, a) || shares(d, b) || sharesInside(d) {
+				t.Errorf("Diff of the states %d and %d: error %d, or memory is shared", i, k, e)
+			}
+			if again, _ := delta.Diff(a, b); shares(d, again) {
+				t.Errorf("Diff of the states %d and %d shares memory with the result before it", i, k)
+			}
+			s, e := delta.Apply(a, d)
+			if e != api.OK || shares(s, a) || shares(s, d) || sharesInside(s) {
+				t.Errorf("Apply to the state %d, which leads to %d: error %d, or memory is shared", i, k, e)
+			}
+			bytes, e := delta.Encode(d)
+			if e != api.OK || shares(bytes, d) {
+				t.Errorf("Encode of the delta from %d to %d: error %d, or it shares memory with its argument", i, k, e)
+			}
+			c, e := delta.Decode(bytes)
+			if e != api.OK || shares(c, bytes) || sharesInside(c) {
+				t.Errorf("Decode of the delta from %d to %d: error %d, or memory is shared", i, k, e)
+			}
+		}
+	}
+}
+
+func TestCopiesAreNew(t *testing.T) {
+	for i, s := range states() {
+		c := state.Copy(s)
+		if shares(c, s) || sharesInside(c) {
+			t.Errorf("the copy of state %d shares memory", i)
+		}
+		// A valid state has only one encoding.
+		b, _ := wire.Encode(s, 3)
+		if d, e := wire.Encode(c, 3); d != b || e != api.OK {
+			t.Errorf("the copy of state %d has the encoding %q, error %d, want %q", i, d, e, b)
 		}
 	}
 }

@@ -557,6 +557,44 @@ func TestByRule(t *testing.T) {
 	}
 }
 
+// What the packages above use
+
+func TestIsName(t *testing.T) {
+	for s, note := range texts() {
+		if IsName(s) != (note && s != "") {
+			t.Errorf("IsName(%q) = %t", s, IsName(s))
+		}
+	}
+}
+
+func TestCheckLease(t *testing.T) {
+	for _, c := range []struct {
+		lease api.Lease
+		want  api.Errno
+	}{
+		{api.Lease{Job: "a", Node: "n"}, api.OK},
+		{api.Lease{Job: "a", Node: "a", Until: 1 << 40}, api.OK},
+		{api.Lease{Node: "n"}, api.ErrForm},
+		{api.Lease{Job: "a"}, api.ErrForm},
+		{api.Lease{Job: "\xff", Node: "n", Until: -1}, api.ErrForm},
+		{api.Lease{Job: "a", Node: strings.Repeat("n", 17), Until: -1}, api.ErrForm},
+		{api.Lease{Job: "a", Node: "n", Until: -1}, api.ErrArg},
+		{api.Lease{Job: "a", Node: "n", Until: 1<<40 + 1}, api.ErrArg},
+	} {
+		if e := CheckLease(c.lease); e != c.want {
+			t.Errorf("CheckLease(%+v) = %d, want %d", c.lease, e, c.want)
+		}
+	}
+}
+
+func TestCopy(t *testing.T) {
+	for _, s := range []api.State{{}, {Rev: 1 << 40}, sample(), full()} {
+		if c := Copy(s); !reflect.DeepEqual(c, s) {
+			t.Errorf("Copy(%+v) = %+v", s, c)
+		}
+	}
+}
+
 // P1
 
 func TestNothingPanics(t *testing.T) {
