@@ -13,6 +13,7 @@ import (
 	"bracken/frame"
 	"bracken/json"
 	"bracken/prim"
+	"bracken/req"
 	"bracken/state"
 	"bracken/up"
 	"bracken/wire"
@@ -274,6 +275,43 @@ func TestDeltaResultsAreNew(t *testing.T) {
 			if e != api.OK || shares(c, bytes) || sharesInside(c) {
 				t.Errorf("Decode of the delta from %d to %d: error %d, or memory is shared", i, k, e)
 			}
+		}
+	}
+}
+
+func TestReqResultsAreNew(t *testing.T) {
+	for _, s := range texts()[1:] {
+		for _, r := range []api.Request{
+			{Kind: api.PutJob, Job: api.Job{Name: s, Tag: s}},
+			{Kind: api.PutNode, Node: api.Node{Name: s, Zone: s}},
+			{Kind: api.DelJob, Name: s},
+			{Kind: api.DelNode, Name: s},
+			{Kind: api.Grant, Lease: api.Lease{Job: s, Node: s}},
+			{Kind: api.Free, Name: s},
+			{Kind: api.Tick, N: len(s)},
+			{Kind: api.Get},
+			{Kind: api.Watch},
+		} {
+			b, e := req.Encode(r)
+			if e != api.OK || shares(b, r) {
+				t.Errorf("Encode(%+v): error %d, or it shares memory with its argument", r, e)
+			}
+			if again, _ := req.Encode(r); shares(b, again) {
+				t.Errorf("Encode(%+v) shares memory with the result before it", r)
+			}
+			d, e := req.Decode(b)
+			if e != api.OK || shares(d, b) || sharesInside(d) {
+				t.Errorf("Decode(%q): error %d, or memory is shared", b, e)
+			}
+			if again, _ := req.Decode(b); shares(d, again) {
+				t.Errorf("Decode(%q) shares memory with the result before it", b)
+			}
+		}
+	}
+	for _, r := range []api.Reply{{}, {Code: api.ErrOld, Rev: api.MaxTime}} {
+		b, e := req.Reply(r)
+		if again, _ := req.Reply(r); e != api.OK || shares(b, again) {
+			t.Errorf("Reply(%+v): error %d, or it shares memory with the result before it", r, e)
 		}
 	}
 }

@@ -120,7 +120,7 @@ func (c *Coder) limited(n, most uint64) uint64 {
 func (c *Coder) Text(s string) string {
 	if !c.reading {
 		b, e := prim.Text(s)
-		c.fail(e)
+		c.Fail(e)
 		c.written.WriteString(b)
 		return s
 	}
@@ -132,15 +132,15 @@ func (c *Coder) Text(s string) string {
 // advance goes on behind a field that was read, or ends the reading with an error.
 func (c *Coder) advance(size int, e api.Errno) {
 	if e != api.OK {
-		c.fail(e)
+		c.Fail(e)
 		// With no bytes left, all further fields are zero, and no further rows are read.
 		size = len(c.rest)
 	}
 	c.rest = c.rest[size:]
 }
 
-// fail notes the first error.
-func (c *Coder) fail(e api.Errno) {
+// Fail notes an error of the fields, unless there was one before.
+func (c *Coder) Fail(e api.Errno) {
 	if c.e == api.OK {
 		c.e = e
 	}
@@ -157,7 +157,7 @@ func (c *Coder) Written() (string, api.Errno) {
 // End returns the first error of the reading; bytes that remain are one, too.
 func (c *Coder) End() api.Errno {
 	if c.rest != "" {
-		c.fail(api.ErrForm)
+		c.Fail(api.ErrForm)
 	}
 	return c.e
 }
