@@ -14,6 +14,7 @@ import (
 	"bracken/json"
 	"bracken/prim"
 	"bracken/req"
+	"bracken/serve"
 	"bracken/state"
 	"bracken/up"
 	"bracken/wire"
@@ -312,6 +313,44 @@ func TestReqResultsAreNew(t *testing.T) {
 		b, e := req.Reply(r)
 		if again, _ := req.Reply(r); e != api.OK || shares(b, again) {
 			t.Errorf("Reply(%+v): error %d, or it shares memory with the result before it", r, e)
+		}
+	}
+}
+
+func TestServeResultsAreNew(t *testing.T) {
+	for i, s := range states() {
+		v, e := serve.New(s)
+		if e != api.OK || shares(*v, s) || sharesInside(*v) {
+			t.Fatalf("New of state %d: error %d, or memory is shared", i, e)
+		}
+		name := strings.Repeat("n", i%api.MaxText+1)
+		for _, q := range []api.Request{
+			{Kind: api.PutJob, Job: api.Job{Name: name, Tag: name}},
+			{Kind: api.PutNode, Node: api.Node{Name: name, Zone: name}},
+			{Kind: api.Grant, Lease: api.Lease{Job: name, Node: name, Until: 9}},
+			{Kind: api.Get},
+			{Kind: api.PutJob, Job: api.Job{Name: name, Prio: 1}},
+			{Kind: api.PutNode, Node: api.Node{Name: name, Room: 1}},
+			{Kind: api.Free, Name: name},
+			{Kind: api.Grant, Lease: api.Lease{Job: name, Node: name, Until: 9}},
+			{Kind: api.Tick, N: 9},
+			{Kind: api.Grant, Lease: api.Lease{Job: name, Node: name, Until: 10}},
+			{Kind: api.Watch},
+			{Kind: api.DelNode, Name: name},
+			{Kind: api.DelJob, Name: name},
+		} {
+			before := v.State()
+			r, d, _ := v.Do(q)
+			if r.Code != api.OK || shares(d, q) || sharesInside(d) || shares(d, before) {
+				t.Errorf("Do(%+v) at state %d: error %d, or memory is shared", q, i, r.Code)
+			}
+			after := v.State()
+			if sharesInside(after) || shares(after, before) || shares(after, q) || shares(after, d) {
+				t.Errorf("the state after Do(%+v) at state %d shares memory", q, i)
+			}
+			if sharesInside(*v) || shares(*v, q) || shares(*v, d) || shares(*v, before) || shares(*v, after) {
+				t.Errorf("the server after Do(%+v) at state %d shares memory", q, i)
+			}
 		}
 	}
 }
