@@ -11,6 +11,7 @@ import (
 	"bracken/delta"
 	"bracken/feed"
 	"bracken/frame"
+	"bracken/hub"
 	"bracken/json"
 	"bracken/prim"
 	"bracken/req"
@@ -25,7 +26,7 @@ type span struct {
 	first, end uintptr
 }
 
-// spans returns the memory that the strings and slices inside v occupy, with the unused capacity of slices.
+// spans returns the memory that the strings and slices inside v, and behind its pointers, occupy, with the unused capacity of slices.
 func spans(v reflect.Value) []span {
 	var all []span
 	switch v.Kind() {
@@ -41,9 +42,17 @@ func spans(v reflect.Value) []span {
 		for i := range v.Len() {
 			all = append(all, spans(v.Index(i))...)
 		}
+	case reflect.Array:
+		for i := range v.Len() {
+			all = append(all, spans(v.Index(i))...)
+		}
 	case reflect.Struct:
 		for i := range v.NumField() {
 			all = append(all, spans(v.Field(i))...)
+		}
+	case reflect.Pointer:
+		if !v.IsNil() {
+			all = append(all, spans(v.Elem())...)
 		}
 	}
 	return all
@@ -70,6 +79,7 @@ func TestSharesFinds(t *testing.T) {
 		{api.Frame{Payload: s[2:4]}, s},
 		{api.State{Jobs: []api.Job{{Tag: s}}}, s[8:]},
 		{list, list[1:3]},
+		{[2]string{"", s}, s}, {&s, s}, {struct{ *api.Frame }{&api.Frame{Payload: s}}, s},
 	} {
 		if !shares(pair[0], pair[1]) {
 			t.Errorf("pair %d shares memory", i)
@@ -79,6 +89,7 @@ func TestSharesFinds(t *testing.T) {
 		{s, strings.Clone(s)}, {s[:4], s[4:]}, {"", s}, {s[:0], s},
 		{api.Frame{Payload: s}, api.Frame{Payload: strings.Clone(s)}},
 		{list[0:1:1], list[1:]},
+		{[2]string{"", s}, ""}, {(*string)(nil), s},
 	} {
 		if shares(pair[0], pair[1]) {
 			t.Errorf("pair %d shares no memory", i)
@@ -351,6 +362,72 @@ func TestServeResultsAreNew(t *testing.T) {
 			if sharesInside(*v) || shares(*v, q) || shares(*v, d) || shares(*v, before) || shares(*v, after) {
 				t.Errorf("the server after Do(%+v) at state %d shares memory", q, i)
 			}
+		}
+	}
+}
+
+// requestFrame returns the bytes of a frame with a request.
+func requestFrame(t *testing.T, q api.Request) string {
+	t.Helper()
+	b, e := req.Encode(q)
+	s, f := frame.Encode(api.Frame{Version: 3, Kind: api.KRequest, Payload: b})
+	if e != api.OK || f != api.OK {
+		t.Fatal(q, e, f)
+	}
+	return s
+}
+
+// hubActs returns acts that lead to replies, states, deltas on several connections, and an error.
+func hubActs(t *testing.T, name string) []api.Act {
+	t.Helper()
+	watch := requestFrame(t, api.Request{Kind: api.Watch})
+	put := requestFrame(t, api.Request{Kind: api.PutJob, Job: api.Job{Name: name, Tag: name}})
+	node := requestFrame(t, api.Request{Kind: api.PutNode, Node: api.Node{Name: name, Zone: name}})
+	return []api.Act{
+		{Conn: 1, Bytes: watch}, {Conn: 2, Bytes: watch}, {Conn: 3, Bytes: watch},
+		{Conn: 1, Bytes: put[:7]}, {Conn: 1, Bytes: put[7:] + put[:4]},
+		{Conn: 0, Bytes: node + watch[:5]},
+		{Conn: 2, Bytes: "x"},
+		{Conn: 0, Bytes: watch[5:] + requestFrame(t, api.Request{Kind: api.DelJob, Name: name}) + put[:9]},
+		{Conn: 1, Bytes: put[4:] + node[:5]},
+	}
+}
+
+func TestHubResultsAreNew(t *testing.T) {
+	for i, s := range states() {
+		acts := hubActs(t, strings.Repeat("n", i%api.MaxText+1))
+		h, e := hub.New(s)
+		if e != api.OK || shares(*h, s) || sharesInside(*h) {
+			t.Fatalf("New of state %d: error %d, or memory is shared", i, e)
+		}
+		var all []string
+		for k, a := range acts {
+			before := h.State()
+			out, e := h.Send(a.Conn, a.Bytes)
+			if e != api.OK || shares(out, a) || shares(out, all) || shares(out, before) || shares(out, *h) {
+				t.Errorf("act %d at state %d: error %d, or memory is shared", k, i, e)
+			}
+			if shares(*h, acts) || shares(*h, before) || sharesInside(*h) {
+				t.Errorf("after act %d at state %d the hub shares memory", k, i)
+			}
+			all = append(all, out)
+			if shares(h.State(), *h) {
+				t.Errorf("after act %d at state %d the state shares memory with the hub", k, i)
+			}
+		}
+		for conn := range api.MaxConns {
+			out, e := h.Out(conn)
+			if e != api.OK || shares(out, all) || shares(out, *h) {
+				t.Errorf("Out(%d) at state %d: error %d, or memory is shared", conn, i, e)
+			}
+			all = append(all, out)
+		}
+		out, e := hub.Play(s, acts)
+		if e != api.OK || sharesInside(out) || shares(out, acts) || shares(out, s) {
+			t.Errorf("Play at state %d: error %d, or memory is shared", i, e)
+		}
+		if again, _ := hub.Play(s, acts); shares(again, out) {
+			t.Errorf("Play at state %d shares memory with the result before it", i)
 		}
 	}
 }
